@@ -21,6 +21,17 @@ func Room(sign int) int {
 	return 0
 }
 
+// Places goes through all places of t: each one, and where the next term behind the one that begins there would begin.
+func Places(t api.Term) iter.Seq2[int, int] {
+	return func(yield func(begin, end int) bool) {
+		for k := range t {
+			if !yield(k, End(t, k)) {
+				return
+			}
+		}
+	}
+}
+
 // Parts goes through the parts of the term that begins at place k of t: where each begins, and where the next one behind it would.
 func Parts(t api.Term, k int) iter.Seq2[int, int] {
 	return func(yield func(begin, end int) bool) {

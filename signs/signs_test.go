@@ -39,6 +39,31 @@ func TestParts(t *testing.T) {
 	}
 }
 
+func TestPlaces(t *testing.T) {
+	one := api.Term{5, 4, -1, 2, 0, 3, 1}
+	want := [][2]int{{0, 7}, {1, 5}, {2, 3}, {3, 5}, {4, 5}, {5, 7}, {6, 7}}
+	var got [][2]int
+	for begin, end := range Places(one) {
+		got = append(got, [2]int{begin, end})
+	}
+	if !reflect.DeepEqual(got, want) {
+		t.Errorf("Places: %v, want %v", got, want)
+	}
+}
+
+func TestPlacesLeftEarly(t *testing.T) {
+	n := 0
+	for k := range Places(api.Term{4, 0, 1}) {
+		n++
+		if k == 1 {
+			break
+		}
+	}
+	if n != 2 {
+		t.Errorf("%d places, want 2", n)
+	}
+}
+
 func TestPartsLeftEarly(t *testing.T) {
 	n := 0
 	for range Parts(api.Term{4, 0, 1}, 0) {
