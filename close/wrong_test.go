@@ -108,12 +108,17 @@ func TestWhichErrorIsToldFirst(t *testing.T) { // J1, J2, P1
 			notRun(t, w.want, w.rank, y.e)
 		}
 	}
-	// What is told of rules goes ahead of what is told of pairs, and of there being none.
+	// What is told of pairs goes ahead of what is told of rules, and that ahead of there being no pairs.
+	for _, rank := range [][]int{rising, {4, 3, 2, 0, 1, 5}} {
+		for _, x := range wrongRules {
+			for _, y := range wrongPairs {
+				refused(t, y.want, rank, x.l, y.e)
+			}
+		}
+	}
 	for _, x := range wrongRules {
 		refused(t, x.want, rising, x.l, nil)
-		for _, y := range wrongPairs {
-			refused(t, x.want, rising, x.l, y.e)
-		}
+		refused(t, x.want, rising, x.l, []api.Pair{})
 	}
 	// A rule that does not fall stands ahead of one with a fault: the fault is told.
 	up := rule(api.Term{0}, api.Term{1})
