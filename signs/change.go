@@ -11,6 +11,17 @@ func Change(t api.Term, to func(sign int) api.Term) api.Term {
 	return out
 }
 
+// Apart: the rule with its variables made others, -1 -5 and so on, so that it has none in common with a rule, or a term, of variables from -1 to -Own.
+func Apart(r api.Rule) api.Rule {
+	other := func(sign int) api.Term {
+		if sign < 0 {
+			sign -= api.Own
+		}
+		return api.Term{sign}
+	}
+	return api.Rule{L: Change(r.L, other), R: Change(r.R, other)}
+}
+
 // Plain: the terms as one behind the other, in which the variables, in the order in which they first stand there, have become -1, -2 and so on.
 func Plain(terms ...api.Term) []api.Term {
 	fresh := map[int]int{}

@@ -2,6 +2,7 @@ package signs
 
 import (
 	"reflect"
+	"slices"
 	"testing"
 
 	"hasp/api"
@@ -91,5 +92,17 @@ func TestPlainOfSome(t *testing.T) {
 	}
 	if got := Plain(); len(got) != 0 {
 		t.Errorf("Plain of nothing: %v", got)
+	}
+}
+
+func TestApart(t *testing.T) {
+	r := api.Rule{L: api.Term{4, 5, -1, -2, 5, -3, -4}, R: api.Term{4, -4, 2, -1}}
+	got := Apart(r)
+	if !slices.Equal(got.L, api.Term{4, 5, -5, -6, 5, -7, -8}) || !slices.Equal(got.R, api.Term{4, -8, 2, -5}) {
+		t.Errorf("Apart(%v): %v", r, got)
+	}
+	got.L[0], got.R[0] = 3, 3
+	if r.L[0] != 4 || r.R[0] != 4 {
+		t.Errorf("what was handed in is changed: %v", r)
 	}
 }
